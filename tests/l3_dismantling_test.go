@@ -5,7 +5,6 @@ import (
 	"reflect"
 	"slices"
 	"testing"
-	"time"
 
 	"loop.example/g01109/impl"
 )
@@ -1117,16 +1116,9 @@ func callAll(g impl.Graph) {
 }
 
 func TestOneCopReturnsInTime(t *testing.T) {
-	done := make(chan bool)
-	go func() {
-		defer close(done)
+	checkInTime(t, func() {
 		for _, g := range append(greatGraphs(), treeGraphs()...) {
 			callAll(g)
 		}
-	}()
-	select {
-	case <-done:
-	case <-time.After(30 * time.Second):
-		t.Fatal("too slow")
-	}
+	})
 }

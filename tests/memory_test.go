@@ -3,6 +3,7 @@ package tests
 import (
 	"reflect"
 	"testing"
+	"time"
 )
 
 // piece is the memory of a slice up to its capacity: what an append may write to belongs to it.
@@ -145,6 +146,21 @@ func checkFails(t *testing.T, name string, function any, arguments ...any) {
 		t.Errorf("%s does not fail for %.200s", name, reflect.ValueOf(arguments))
 	}
 	checkZero(t, name, results[:last])
+}
+
+// checkInTime checks that calls return before long.
+func checkInTime(t *testing.T, calls func()) {
+	t.Helper()
+	done := make(chan bool)
+	go func() {
+		defer close(done)
+		calls()
+	}()
+	select {
+	case <-done:
+	case <-time.After(time.Minute):
+		t.Fatal("too slow")
+	}
 }
 
 func TestSharedMemoryIsSeen(t *testing.T) {
