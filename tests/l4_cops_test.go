@@ -65,11 +65,11 @@ func copGames(graphs []impl.Graph) []copGame {
 	return all
 }
 
-// eachOf returns some of the Graphs, one of each so many.
-func eachOf(graphs []impl.Graph, step int) []impl.Graph {
-	var some []impl.Graph
-	for i := step / 2; i < len(graphs); i += step {
-		some = append(some, graphs[i])
+// eachOf returns some elements of a list, one of each so many.
+func eachOf[T any](list []T, step int) []T {
+	var some []T
+	for i := step / 2; i < len(list); i += step {
+		some = append(some, list[i])
 	}
 	return some
 }

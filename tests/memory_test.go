@@ -1,6 +1,7 @@
 package tests
 
 import (
+	"fmt"
 	"reflect"
 	"testing"
 	"time"
@@ -143,7 +144,8 @@ func checkFails(t *testing.T, name string, function any, arguments ...any) {
 	results := reflect.ValueOf(function).Call(valuesOf(arguments))
 	last := len(results) - 1
 	if results[last].Bool() {
-		t.Errorf("%s does not fail for %.200s", name, reflect.ValueOf(arguments))
+		text := fmt.Sprint(arguments...)
+		t.Errorf("%s does not fail for %s", name, text[:min(len(text), 200)])
 	}
 	checkZero(t, name, results[:last])
 }
