@@ -1057,6 +1057,10 @@ func checkSearches(t *testing.T, g impl.Graph) {
 		if !is || !told.clears || told.used > k {
 			t.Error("not clearing", g, k, program, told)
 		}
+		// As many steps as a program of a layout has are enough, so MaxProgram leaves none out.
+		if len(program) > 2*g.Size {
+			t.Error("long", g, k, program)
+		}
 	}
 	number, ok := impl.SearchNumber(g)
 	checkNumber(t, "searchers for "+name, number, ok, least)
