@@ -1070,20 +1070,7 @@ func checkOneCopCalls(t *testing.T, g impl.Graph) {
 }
 
 func TestOneCopLeavesItsArgumentsAlone(t *testing.T) {
-	graphs := append(fewGraphs(), treeGraphs()[:10]...)
-	for _, g := range graphs {
-		room := append(slices.Clone(g.Edges), [2]int{-7, 7}, [2]int{-8, 8})
-		behind := room[len(g.Edges):]
-		checkOneCopCalls(t, impl.Graph{Size: g.Size, Edges: room[:len(g.Edges)]})
-		if !slices.Equal(behind, [][2]int{{-7, 7}, {-8, 8}}) {
-			t.Fatal("written behind the edges", g, behind)
-		}
-	}
-	for _, g := range brokenGraphs() {
-		if len(g.Edges) < 100 {
-			checkOneCopCalls(t, g)
-		}
-	}
+	checkWithRoom(t, append(fewGraphs(), treeGraphs()[:10]...), checkOneCopCalls)
 }
 
 // callAll makes all calls of a Graph, with all its nodes and sets, and forgets the results.

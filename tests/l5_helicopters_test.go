@@ -1384,19 +1384,7 @@ func checkWidthCalls(t *testing.T, g impl.Graph) {
 func TestWidthsLeaveTheirArgumentsAlone(t *testing.T) {
 	graphs := append(smallGraphs(3), allGraphs(4)[20:30]...)
 	graphs = append(append(graphs, greatGraphs()[:6]...), treeGraphs()[:2]...)
-	for _, g := range append(graphs, complete(8)) {
-		room := append(slices.Clone(g.Edges), [2]int{-7, 7}, [2]int{-8, 8})
-		behind := room[len(g.Edges):]
-		checkWidthCalls(t, impl.Graph{Size: g.Size, Edges: room[:len(g.Edges)]})
-		if !slices.Equal(behind, [][2]int{{-7, 7}, {-8, 8}}) {
-			t.Fatal("written behind the edges", g, behind)
-		}
-	}
-	for _, g := range brokenGraphs() {
-		if len(g.Edges) < 100 {
-			checkWidthCalls(t, g)
-		}
-	}
+	checkWithRoom(t, append(graphs, complete(8)), checkWidthCalls)
 }
 
 // callAllOfWidths makes all calls of a Graph.

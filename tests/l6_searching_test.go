@@ -1288,19 +1288,7 @@ func checkSearchingCalls(t *testing.T, g impl.Graph) {
 func TestSearchingLeavesItsArgumentsAlone(t *testing.T) {
 	graphs := append(smallGraphs(3), allGraphs(4)[20:30]...)
 	graphs = append(append(graphs, greatGraphs()[:6]...), treeGraphs()[:2]...)
-	for _, g := range append(graphs, complete(8), cycle(6, 6), complete(6)) {
-		room := append(slices.Clone(g.Edges), [2]int{-7, 7}, [2]int{-8, 8})
-		behind := room[len(g.Edges):]
-		checkSearchingCalls(t, impl.Graph{Size: g.Size, Edges: room[:len(g.Edges)]})
-		if !slices.Equal(behind, [][2]int{{-7, 7}, {-8, 8}}) {
-			t.Fatal("written behind the edges", g, behind)
-		}
-	}
-	for _, g := range brokenGraphs() {
-		if len(g.Edges) < 100 {
-			checkSearchingCalls(t, g)
-		}
-	}
+	checkWithRoom(t, append(graphs, complete(8), cycle(6, 6), complete(6)), checkSearchingCalls)
 }
 
 // callAllOfSearching makes all calls of a Graph.
@@ -1329,14 +1317,7 @@ func callAllOfSearching(g impl.Graph) {
 }
 
 func TestSearchingReturnsInTime(t *testing.T) {
-	graphs := append(greatGraphs(), treeGraphs()...)
-	for x := range impl.MaxSize + 1 {
-		for size := 6; size <= impl.MaxSize; size++ {
-			// Two complete parts, and two with all edges between them.
-			graphs = append(graphs, graphBy(size, func(v, w int) bool { return (v < x) == (w < x) }))
-			graphs = append(graphs, graphBy(size, func(v, w int) bool { return (v < x) != (w < x) }))
-		}
-	}
+	graphs := append(append(greatGraphs(), treeGraphs()...), halvedGraphs()...)
 	checkInTime(t, func() {
 		for _, g := range graphs {
 			callAllOfSearching(g)

@@ -3,8 +3,11 @@ package tests
 import (
 	"fmt"
 	"reflect"
+	"slices"
 	"testing"
 	"time"
+
+	"loop.example/g01109/impl"
 )
 
 // piece is the memory of a slice up to its capacity: what an append may write to belongs to it.
@@ -125,6 +128,25 @@ func checkCall(t *testing.T, name string, function any, arguments ...any) {
 	last := len(first) - 1
 	if last > 0 && first[last].Kind() == reflect.Bool && !first[last].Bool() {
 		checkZero(t, name, first[:last])
+	}
+}
+
+// checkWithRoom makes checks for Graphs that have room behind their edges, which an append to these
+// would write to, and for Graphs that are not valid.
+func checkWithRoom(t *testing.T, graphs []impl.Graph, check func(t *testing.T, g impl.Graph)) {
+	t.Helper()
+	for _, g := range graphs {
+		room := append(slices.Clone(g.Edges), [2]int{-7, 7}, [2]int{-8, 8})
+		behind := room[len(g.Edges):]
+		check(t, impl.Graph{Size: g.Size, Edges: room[:len(g.Edges)]})
+		if !slices.Equal(behind, [][2]int{{-7, 7}, {-8, 8}}) {
+			t.Fatal("written behind the edges", g, behind)
+		}
+	}
+	for _, g := range brokenGraphs() {
+		if len(g.Edges) < 100 {
+			check(t, g)
+		}
 	}
 }
 

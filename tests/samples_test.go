@@ -90,6 +90,19 @@ func greatGraphs() []impl.Graph {
 	return all
 }
 
+// halvedGraphs returns Graphs of six to MaxSize nodes with two complete parts, and with all edges
+// between two halves.
+func halvedGraphs() []impl.Graph {
+	var all []impl.Graph
+	for x := range impl.MaxSize + 1 {
+		for size := 6; size <= impl.MaxSize; size++ {
+			all = append(all, graphBy(size, func(v, w int) bool { return (v < x) == (w < x) }))
+			all = append(all, graphBy(size, func(v, w int) bool { return (v < x) != (w < x) }))
+		}
+	}
+	return all
+}
+
 // sampleGraphs returns Graphs of all Sizes: all those of at most five nodes, and greater ones.
 func sampleGraphs() []impl.Graph {
 	return append(smallGraphs(5), greatGraphs()...)
