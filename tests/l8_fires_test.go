@@ -893,14 +893,7 @@ func TestOtherFarSetsAndThresholdsFail(t *testing.T) {
 
 func TestFiresWithSetsThatAreNotValid(t *testing.T) {
 	for _, g := range fewGraphs() {
-		sets := [][]int{{0, 0}, {1, 0}, append(nodesOf(g.Size), g.Size), append([]int{-1}, nodesOf(g.Size)...), make([]int, 1<<16), nodesOf(1 << 16)}
-		for _, x := range farNumbers(g.Size) {
-			sets = append(sets, []int{x}, []int{0, x}, []int{x, 0})
-		}
-		for x := range g.Size {
-			sets = append(sets, append(nodesOf(g.Size), x))
-		}
-		for _, set := range sets {
+		for _, set := range noSets(g.Size) {
 			for name, function := range setCalls() {
 				for _, k := range []int{1, 2, 8} {
 					checkFails(t, name, function, g, set, k)

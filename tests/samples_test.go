@@ -222,6 +222,18 @@ func farNumbers(size int) []int {
 	return []int{-1, -2, -size - 1, size, size + 1, size + 8, 255, 256, 1 << 32, math.MaxInt, math.MinInt}
 }
 
+// noSets returns lists that are no sets of a Graph of a Size.
+func noSets(size int) [][]int {
+	lists := [][]int{{0, 0}, {1, 0}, append(nodesOf(size), size), append([]int{-1}, nodesOf(size)...), make([]int, 1<<16), nodesOf(1 << 16)}
+	for _, x := range farNumbers(size) {
+		lists = append(lists, []int{x}, []int{0, x}, []int{x, 0})
+	}
+	for x := range size {
+		lists = append(lists, append(nodesOf(size), x))
+	}
+	return lists
+}
+
 func TestSamplesAreWhatTheyAreTaken(t *testing.T) {
 	sizes := map[int]int{}
 	for _, g := range sampleGraphs() {
